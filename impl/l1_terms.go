@@ -43,6 +43,15 @@ func readText(s string) (*part, bool) {
 	return p, true
 }
 
+// readAtMost reads a whole text that has not more than so many atoms.
+func readAtMost(s string, atoms int) (*part, bool) {
+	p, ok := readText(s)
+	if !ok || p.countAtoms() > atoms {
+		return nil, false
+	}
+	return p, true
+}
+
 func (r *reader) readPart(nest int) (*part, bool) {
 	if r.take('(') {
 		return r.readParts(nest + 1)
@@ -147,8 +156,8 @@ type term struct {
 }
 
 func readTerm(s string) (*term, bool) {
-	p, ok := readText(s)
-	if !ok || p.countAtoms() > TermMax {
+	p, ok := readAtMost(s, TermMax)
+	if !ok {
 		return nil, false
 	}
 	return termOf(p, nil)

@@ -22,8 +22,8 @@ func noKinds() []string {
 }
 
 func TestLimits(t *testing.T) {
-	if impl.TextMax != 8000 || impl.TermMax != 400 || impl.StepsMax != 200 || impl.TypeMax != 200 {
-		t.Errorf("the limits are %d, %d, %d and %d", impl.TextMax, impl.TermMax, impl.StepsMax, impl.TypeMax)
+	if impl.TextMax != 8000 || impl.TermMax != 400 || impl.StepsMax != 200 || impl.TypeMax != 200 || impl.NodesMax != 600 {
+		t.Errorf("the limits are %d, %d, %d, %d and %d", impl.TextMax, impl.TermMax, impl.StepsMax, impl.TypeMax, impl.NodesMax)
 	}
 }
 

@@ -266,6 +266,8 @@ func (t *term) canonical() *term {
 	return t.rename(&namer{taken: t.freeNames(nil)})
 }
 
+// rename makes each part anew. What was put at several places shares parts before, but a part with a place
+// of its own can be told from all others by its pointer.
 func (t *term) rename(names *namer) *term {
 	switch t.form {
 	case lamForm:
@@ -275,7 +277,8 @@ func (t *term) rename(names *namer) *term {
 		left := t.left.rename(names)
 		return newApp(left, t.right.rename(names))
 	}
-	return t
+	other := *t
+	return &other
 }
 
 // namer gives out z0, z1 and so on, but for those that are taken.

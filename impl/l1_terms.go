@@ -160,22 +160,25 @@ func readTerm(s string) (*term, bool) {
 	if !ok {
 		return nil, false
 	}
-	return termOf(p, nil)
+	return termOf(p, nil, nameOf)
 }
 
+// leafReader reads an atom that stands as a term, which for terms is a name alone.
+type leafReader func(atom string, scope []string) (*term, bool)
+
 // termOf reads a term that stands within lams; scope has their names, the innermost one last.
-func termOf(p *part, scope []string) (*term, bool) {
+func termOf(p *part, scope []string, leaf leafReader) (*term, bool) {
 	if p.atom != "" {
-		return nameOf(p.atom, scope)
+		return leaf(p.atom, scope)
 	}
 	if len(p.parts) != 3 {
 		return nil, false
 	}
 	switch p.parts[0].atom {
 	case "lam":
-		return lamOf(p.parts[1].atom, p.parts[2], scope)
+		return lamOf(p.parts[1].atom, p.parts[2], scope, leaf)
 	case "app":
-		return appOf(p.parts[1], p.parts[2], scope)
+		return appOf(p.parts[1], p.parts[2], scope, leaf)
 	}
 	return nil, false
 }
@@ -192,23 +195,23 @@ func nameOf(name string, scope []string) (*term, bool) {
 	return &term{form: freeForm, name: name}, true
 }
 
-func lamOf(name string, within *part, scope []string) (*term, bool) {
+func lamOf(name string, within *part, scope []string, leaf leafReader) (*term, bool) {
 	if !isName(name) {
 		return nil, false
 	}
-	body, ok := termOf(within, append(scope, name))
+	body, ok := termOf(within, append(scope, name), leaf)
 	if !ok {
 		return nil, false
 	}
 	return newLam(name, body), true
 }
 
-func appOf(first, second *part, scope []string) (*term, bool) {
-	left, ok := termOf(first, scope)
+func appOf(first, second *part, scope []string, leaf leafReader) (*term, bool) {
+	left, ok := termOf(first, scope, leaf)
 	if !ok {
 		return nil, false
 	}
-	right, ok := termOf(second, scope)
+	right, ok := termOf(second, scope, leaf)
 	if !ok {
 		return nil, false
 	}

@@ -263,6 +263,7 @@ func TestApproxModel(t *testing.T) {
 
 // Each two approximants, one of them below the other one or not.
 func TestApproxPairModel(t *testing.T) {
+	t.Parallel()
 	both, one, none, less := 0, 0, 0, 0
 	for i, a := range approxes() {
 		for j, b := range approxes()[:i+1] {
@@ -335,6 +336,7 @@ func TestApproxTermModel(t *testing.T) {
 }
 
 func TestApproxTreeModel(t *testing.T) {
+	t.Parallel()
 	grows, none := [7]int{}, 0
 	for _, m := range machineTrees() {
 		last := ""

@@ -152,6 +152,7 @@ func treesUpTo(t *testing.T, s string) []string {
 }
 
 func TestPromise62(t *testing.T) {
+	t.Parallel()
 	grow, tooLarge, behind := 0, 0, 0
 	for _, s := range treeTexts() {
 		list := treesUpTo(t, s)
@@ -208,6 +209,7 @@ var treeTexts = sync.OnceValue(func() []string {
 })
 
 func TestPromise63(t *testing.T) {
+	t.Parallel()
 	om, whole, later := 0, 0, 0
 	for _, s := range treeTexts() {
 		_, _, ok := impl.NormalOf("head", s)

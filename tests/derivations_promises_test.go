@@ -89,6 +89,7 @@ func TestDerivingsAreMany(t *testing.T) {
 
 // Each function tells the same of a derivation and a term as the model does.
 func TestDeriveModel(t *testing.T) {
+	t.Parallel()
 	for _, c := range derivings() {
 		checkDeriveModel(t, c.kind, c.tree, c.proof)
 	}
@@ -96,6 +97,7 @@ func TestDeriveModel(t *testing.T) {
 
 // Those of greater trees are too many to be asked all.
 func TestDeriveModelChanged(t *testing.T) {
+	t.Parallel()
 	for i, c := range derivings() {
 		for k, d := range changedProofs(c.proof) {
 			if c.tree.size() <= 2 || (i+k)%47 == 0 {
@@ -282,6 +284,7 @@ func TestPromise30(t *testing.T) {
 }
 
 func TestPromise31(t *testing.T) {
+	t.Parallel()
 	for _, c := range derivationPairs() {
 		j, ok := impl.Derive(c.kind, c.s, c.d)
 		if !ok {
@@ -399,6 +402,7 @@ func TestPromise35(t *testing.T) {
 }
 
 func TestPromise36(t *testing.T) {
+	t.Parallel()
 	for _, c := range derivationPairs() {
 		j, ok := impl.Derive(c.kind, c.s, c.d)
 		for _, name := range append(slices.Clone(j.Names), "x", "y", "z0", "a9") {
@@ -421,6 +425,7 @@ func TestPromise36(t *testing.T) {
 }
 
 func TestPromise37(t *testing.T) {
+	t.Parallel()
 	for _, c := range derivationPairs() {
 		whole, ok := impl.DeriveHere(c.kind, c.s, c.d, 0)
 		if _, okDerive := impl.Derive(c.kind, c.s, c.d); ok != okDerive {

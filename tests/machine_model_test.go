@@ -185,6 +185,7 @@ func TestMachineModel(t *testing.T) {
 
 // What is gone through is counted as the model does, where it comes close to the greatest number.
 func TestMachineModelThrough(t *testing.T) {
+	t.Parallel()
 	most, least := 0, 100*impl.TermMax
 	for _, m := range throughTrees() {
 		end := engineOf(m)

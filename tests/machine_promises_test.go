@@ -164,6 +164,7 @@ func TestPromise55(t *testing.T) {
 }
 
 func TestPromise56(t *testing.T) {
+	t.Parallel()
 	both := 0
 	for _, s := range machineTexts() {
 		visits := impl.MachineVisits(s)

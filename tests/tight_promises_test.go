@@ -80,6 +80,7 @@ func textsOfBelow(d *proof) []string {
 
 // Each function tells the same of a term as the model does.
 func TestTightModel(t *testing.T) {
+	t.Parallel()
 	for _, m := range tightTrees() {
 		for _, kind := range kinds() {
 			checkTightModel(t, kind, m)
@@ -107,6 +108,7 @@ func checkTightModel(t *testing.T, kind string, m *tree) {
 
 // What TightOf returns is made of the other functions, as the document says.
 func TestTightOfDefined(t *testing.T) {
+	t.Parallel()
 	for _, s := range tightTexts() {
 		for _, kind := range kinds() {
 			want, okWant := tightBack(kind, s)
@@ -155,6 +157,7 @@ func TestPromise44(t *testing.T) {
 }
 
 func TestPromise45(t *testing.T) {
+	t.Parallel()
 	for _, s := range tightTexts() {
 		for _, kind := range kinds() {
 			d, ok := impl.TightOf(kind, s)
@@ -174,6 +177,7 @@ func TestPromise45(t *testing.T) {
 }
 
 func TestPromise46(t *testing.T) {
+	t.Parallel()
 	for _, s := range tightTexts() {
 		for _, kind := range kinds() {
 			steps, size, ok := impl.TightBounds(kind, s)
@@ -215,6 +219,7 @@ func equalTerms() []string {
 }
 
 func TestPromise47(t *testing.T) {
+	t.Parallel()
 	terms := equalTerms()
 	for _, kind := range kinds() {
 		normals, tight := map[string]string{}, map[string]bool{}
@@ -247,6 +252,7 @@ func TestPromise47(t *testing.T) {
 }
 
 func TestPromise48(t *testing.T) {
+	t.Parallel()
 	for _, s := range tightTexts() {
 		for _, kind := range kinds() {
 			counts, ok := impl.TightShape(kind, s)
@@ -274,6 +280,7 @@ func sumOfAll(counts []int) int {
 }
 
 func TestPromise49(t *testing.T) {
+	t.Parallel()
 	for _, s := range tightTexts() {
 		for _, kind := range kinds() {
 			shares, ok := impl.TightShares(kind, s)

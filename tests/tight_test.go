@@ -370,6 +370,7 @@ func TestTightOfNoNormal(t *testing.T) {
 
 // Just NodesMax nodes, and one more.
 func TestTightOfNodesMax(t *testing.T) {
+	t.Parallel()
 	for _, kind := range kinds() {
 		for _, uses := range [][]int{{44, 40, 40, 20}, {48, 48, 24, 24}} {
 			for lams := 15; lams <= 16; lams++ {
@@ -434,6 +435,7 @@ func checkTypeMax(t *testing.T, kind, s, d string, steps int, ok bool) {
 
 // A derivation has at most TextMax bytes.
 func TestTightOfTextMax(t *testing.T) {
+	t.Parallel()
 	found := map[int]bool{}
 	for last := range 6 {
 		for lost := range 7 {

@@ -10,6 +10,7 @@ import (
 // The derivations are of redexes that stand for no node, for one and for several,
 // and whose names are used by none, one and several, of equal types and of others.
 func TestMovingsAreMany(t *testing.T) {
+	t.Parallel()
 	redexes, uses, places := map[int]int{}, map[int]int{}, map[string]int{}
 	equal, different, unsorted, behind := 0, 0, 0, 0
 	for _, c := range movings() {
@@ -78,6 +79,7 @@ func lastTurn(t *tree, path string) string {
 
 // Each function makes of a derivation what the model does.
 func TestMoveModel(t *testing.T) {
+	t.Parallel()
 	for _, c := range movings() {
 		s, d := c.tree.text(), c.proof.text()
 		if c.behind {
@@ -125,6 +127,7 @@ func checkBackModel(t *testing.T, kind string, m *tree, d *proof) {
 
 // Most derivations with a changed node are none, or derive nothing.
 func TestMoveModelChanged(t *testing.T) {
+	t.Parallel()
 	for i, c := range movings() {
 		if i%9 != 0 {
 			continue
@@ -222,6 +225,7 @@ func areKept(a, b impl.Judgement) bool {
 }
 
 func TestPromise39(t *testing.T) {
+	t.Parallel()
 	for _, c := range movePairs() {
 		next, ok := impl.DeriveStep(c.kind, c.s, c.d)
 		j, okDerive := impl.Derive(c.kind, c.s, c.d)
@@ -243,6 +247,7 @@ func TestPromise39(t *testing.T) {
 }
 
 func TestPromise40(t *testing.T) {
+	t.Parallel()
 	for _, c := range movePairs() {
 		before, ok := impl.DeriveBack(c.kind, c.s, c.d)
 		behind, okStep := impl.StepOf(c.kind, c.s)
@@ -263,6 +268,7 @@ func TestPromise40(t *testing.T) {
 }
 
 func TestPromise41(t *testing.T) {
+	t.Parallel()
 	for _, c := range movePairs() {
 		next, ok := impl.DeriveStep(c.kind, c.s, c.d)
 		if !ok {
@@ -279,6 +285,7 @@ func TestPromise41(t *testing.T) {
 }
 
 func TestPromise42(t *testing.T) {
+	t.Parallel()
 	for i, c := range movePairs() {
 		j, okDerive := impl.Derive(c.kind, c.s, c.d)
 		if none, ok := impl.DeriveMany(c.kind, c.s, c.d, 0); ok != okDerive || ok && none != c.d || !ok && none != "" {
@@ -305,6 +312,7 @@ func TestPromise42(t *testing.T) {
 }
 
 func TestPromise43(t *testing.T) {
+	t.Parallel()
 	several := 0
 	for _, c := range movePairs() {
 		n, ok := impl.DeriveMoved(c.kind, c.s, c.d)

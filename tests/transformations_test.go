@@ -824,6 +824,7 @@ func TestDeriveManyStepsMax(t *testing.T) {
 
 // A step back that goes on until there are too many nodes, or a type is too large.
 func TestBackUntilMax(t *testing.T) {
+	t.Parallel()
 	for _, kind := range kinds() {
 		for s, left := range map[string]int{
 			waits(185): 33, "(app (app (app (app " + two + " " + two + ") " + two + ") " + same + ") y)": 2,
